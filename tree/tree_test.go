@@ -116,6 +116,15 @@ func level(op string) int {
 	return slices.IndexFunc(levels, func(l []string) bool { return slices.Contains(l, op) })
 }
 
+// P31: the levels are told as the chapter has them, from 1 on, and 0 for what is no op of two.
+func TestLevel(t *testing.T) {
+	for _, op := range append(val.Ops(), "", "!", "=", ">", "&&", "a", "+ ", "(") {
+		if got := tree.Level(op); got != level(op)+1 {
+			t.Errorf("Level(%q) = %d", op, got)
+		}
+	}
+}
+
 // P31: of two ops, the one that binds more goes ahead, and the left one where they bind alike.
 func TestParseLevels(t *testing.T) {
 	a, b, c := name("a"), name("b"), name("c")
