@@ -1,6 +1,7 @@
 package check_test
 
 import (
+	"errors"
 	"math"
 	"math/rand"
 	"reflect"
@@ -698,6 +699,56 @@ func TestGrown(t *testing.T) {
 				well(t, l)
 			}
 			found[want]++
+		}
+	}
+	for _, e := range []error{nil, api.ErrExist, api.ErrNone, api.ErrArgs, api.ErrFull} {
+		if found[e] < 20 {
+			t.Errorf("%v was told %d times only", e, found[e])
+		}
+	}
+}
+
+// plainly: an expression with a sum for each call, of its arguments.
+func plainly(e tree.Expr) tree.Expr {
+	var kids []tree.Expr
+	for _, k := range e.Kids {
+		kids = append(kids, plainly(k))
+	}
+	if e.Kind != "call" {
+		e.Kids = kids
+		return e
+	}
+	sum := num(0)
+	for _, k := range kids {
+		sum = tree.Expr{Kind: "two", Name: "+", Kids: []tree.Expr{sum, k}}
+	}
+	return sum
+}
+
+func plainBlock(l []tree.Stmt) []tree.Stmt {
+	var to []tree.Stmt
+	for _, s := range l {
+		s.E, s.Then, s.Else = plainly(s.E), plainBlock(s.Then), plainBlock(s.Else)
+		to = append(to, s)
+	}
+	return to
+}
+
+// P73: a function alone is told as one without calls.
+func TestAlone(t *testing.T) {
+	found := map[error]int{}
+	for seed := range 20 {
+		g := &grower{Rand: rand.New(rand.NewSource(int64(seed))), slips: seed * 3}
+		for range 200 {
+			for _, f := range g.program() {
+				plain := f
+				plain.Body = plainBlock(f.Body)
+				err, want := check.Alone(f), check.Program([]tree.Fun{plain})
+				if !errors.Is(err, errors.Unwrap(want)) || (err == nil) != (want == nil) || err != nil && err.(*api.Fault).At != 0 {
+					t.Fatalf("%v, want %v\n%s", err, want, show.Program([]tree.Fun{f}))
+				}
+				found[errors.Unwrap(want)]++
+			}
 		}
 	}
 	for _, e := range []error{nil, api.ErrExist, api.ErrNone, api.ErrArgs, api.ErrFull} {
