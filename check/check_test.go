@@ -734,7 +734,7 @@ func plainBlock(l []tree.Stmt) []tree.Stmt {
 	return to
 }
 
-// P73: a function alone is told as one without calls.
+// P73, P3: a function alone is told as one without calls, but bare.
 func TestAlone(t *testing.T) {
 	found := map[error]int{}
 	for seed := range 20 {
@@ -744,8 +744,8 @@ func TestAlone(t *testing.T) {
 				plain := f
 				plain.Body = plainBlock(f.Body)
 				err, want := check.Alone(f), check.Program([]tree.Fun{plain})
-				if !errors.Is(err, errors.Unwrap(want)) || (err == nil) != (want == nil) || err != nil && err.(*api.Fault).At != 0 {
-					t.Fatalf("%v, want %v\n%s", err, want, show.Program([]tree.Fun{f}))
+				if err != errors.Unwrap(want) {
+					t.Fatalf("%T %v, want %v alone\n%s", err, err, want, show.Program([]tree.Fun{f}))
 				}
 				found[errors.Unwrap(want)]++
 			}

@@ -115,7 +115,7 @@ func TestBuildOps(t *testing.T) {
 	}
 }
 
-// P73: check's errors of the function alone.
+// P73, P3: check's errors of the function alone, bare.
 func TestBuildErrors(t *testing.T) {
 	vars := ""
 	for i := range api.MaxVars {
@@ -165,11 +165,11 @@ func TestBuildErrors(t *testing.T) {
 		{"a call named as a variable", first("fn f(a) { return a(a); }"), nil},
 	} {
 		g, err := graph.Build(c.f)
-		if !toldAs(err, 0, c.want) || err != nil && !reflect.DeepEqual(g, graph.Graph{}) || err == nil && !graph.Sound(g) {
-			t.Errorf("%s: %v, want %v", c.what, err, c.want)
+		if err != c.want || err != nil && !reflect.DeepEqual(g, graph.Graph{}) || err == nil && !graph.Sound(g) {
+			t.Errorf("%s: %T %v, want %v alone", c.what, err, err, c.want)
 		}
-		if alone := check.Alone(c.f); !toldAs(alone, 0, c.want) {
-			t.Errorf("%s: alone: %v, want %v", c.what, alone, c.want)
+		if alone := check.Alone(c.f); alone != c.want {
+			t.Errorf("%s: alone: %T %v, want %v alone", c.what, alone, alone, c.want)
 		}
 	}
 }
