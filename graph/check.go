@@ -5,7 +5,6 @@ import (
 	"strings"
 
 	"kelpforest/api"
-	"kelpforest/val"
 )
 
 // Check a graph.
@@ -87,7 +86,7 @@ func (c *checker) node(i int) error {
 		return api.ErrShape
 	case !c.bounded(n):
 		return api.ErrBound
-	case !hasOp(n):
+	case !HasOp(n.Kind, n.Name):
 		return api.ErrKind
 	case !c.given(n, s), s.kind == "phi" && len(n.In)-1 != len(c.Nodes[n.In[0]].In):
 		return api.ErrShape
@@ -102,18 +101,6 @@ func (c *checker) bounded(n Node) bool {
 		}
 	}
 	return n.Kind != "param" || n.Num >= 0 && n.Num < c.Params
-}
-
-// hasOp: is its op one, if its kind has an op?
-func hasOp(n Node) bool {
-	var err error
-	switch n.Kind {
-	case "one":
-		_, err = val.One(n.Name, 0)
-	case "two":
-		_, err = val.Do(n.Name, 0, 0)
-	}
-	return err == nil
 }
 
 // given: is each of In what is due there?
@@ -144,7 +131,7 @@ func (c *checker) circled(i int) error {
 		return nil
 	}
 	found := false
-	visit(len(c.Nodes), []int{i}, func(at int) []int {
+	Visit(len(c.Nodes), []int{i}, func(at int) []int {
 		in := c.reckoned(at)
 		found = found || slices.Contains(in, i)
 		return in

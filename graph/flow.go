@@ -1,50 +1,65 @@
 package graph
 
-// spot: a number of a node's In.
-type spot struct {
-	node, in int
+// Spot: a number of a node's In.
+type Spot struct {
+	Node, In int
 }
 
-// flow: how the ways of a graph that is well go on. Each list goes by the numbers of nodes.
-type flow struct {
+// Flow: how the ways of a graph that is well go on. Each list goes by the numbers of nodes.
+type Flow struct {
 	Graph
-	takers []spot  // where the way that comes out is taken
-	yes    []int   // of an if
-	no     []int   // of an if
-	phis   [][]int // of a region
+	Takers []Spot  // where the way that comes out is taken
+	Yes    []int   // of an if
+	No     []int   // of an if
+	Phis   [][]int // of a region
 }
 
-func newFlow(g Graph) *flow {
+// NewFlow of a graph; Check's errors.
+func NewFlow(g Graph) (*Flow, error) {
+	if err := Check(g); err != nil {
+		return nil, err
+	}
 	many := len(g.Nodes)
-	f := &flow{Graph: g, takers: make([]spot, many), yes: make([]int, many), no: make([]int, many), phis: make([][]int, many)}
+	f := &Flow{Graph: g, Takers: make([]Spot, many), Yes: make([]int, many), No: make([]int, many), Phis: make([][]int, many)}
 	for i, n := range g.Nodes {
 		s := shapeOf(n.Kind)
 		for k, from := range n.In {
 			if s.due(k) == 'w' {
-				f.takers[from] = spot{i, k}
+				f.Takers[from] = Spot{i, k}
 			}
 		}
 		switch n.Kind {
 		case "yes":
-			f.yes[n.In[0]] = i
+			f.Yes[n.In[0]] = i
 		case "no":
-			f.no[n.In[0]] = i
+			f.No[n.In[0]] = i
 		case "phi":
-			f.phis[n.In[0]] = append(f.phis[n.In[0]], i)
+			f.Phis[n.In[0]] = append(f.Phis[n.In[0]], i)
 		}
 	}
-	return f
+	return f, nil
+}
+
+// Behind: the ways on which it goes on from a node.
+func (f *Flow) Behind(i int) []int {
+	switch f.Nodes[i].Kind {
+	case "if":
+		return []int{f.Yes[i], f.No[i]}
+	case "return":
+		return nil
+	}
+	return []int{i}
 }
 
 // asked: the values for which a node asks when it is come to at a number of its In. A region's phis are what asks there.
-func (f *flow) asked(s spot) []int {
-	n := f.Nodes[s.node]
+func (f *Flow) asked(s Spot) []int {
+	n := f.Nodes[s.Node]
 	if n.Kind != "region" {
 		return n.In[1:]
 	}
 	var list []int
-	for _, phi := range f.phis[s.node] {
-		list = append(list, f.Nodes[phi].In[1+s.in])
+	for _, phi := range f.Phis[s.Node] {
+		list = append(list, f.Nodes[phi].In[1+s.In])
 	}
 	return list
 }

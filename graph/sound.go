@@ -2,10 +2,10 @@ package graph
 
 // Sound: is a value always there when it is asked for?
 func Sound(g Graph) bool {
-	if Check(g) != nil {
+	f, err := NewFlow(g)
+	if err != nil {
 		return false
 	}
-	f := newFlow(g)
 	users := f.users()
 	for i, n := range f.Nodes {
 		if (n.Kind == "call" || n.Kind == "region") && !f.ahead(i, f.hanging(i, users)) {
@@ -16,7 +16,7 @@ func Sound(g Graph) bool {
 }
 
 // users: of each node, the ones and twos that are reckoned of it.
-func (f *flow) users() [][]int {
+func (f *Flow) users() [][]int {
 	users := make([][]int, len(f.Nodes))
 	for i, n := range f.Nodes {
 		if n.Kind == "one" || n.Kind == "two" {
@@ -29,13 +29,13 @@ func (f *flow) users() [][]int {
 }
 
 // hanging: the values that are there only behind a call, or a region. They are told by numbers that are not 0.
-func (f *flow) hanging(i int, users [][]int) map[int]int {
-	first := f.phis[i]
+func (f *Flow) hanging(i int, users [][]int) map[int]int {
+	first := f.Phis[i]
 	if f.Nodes[i].Kind == "call" {
 		first = []int{i}
 	}
 	hanging := map[int]int{}
-	visit(len(f.Nodes), first, func(at int) []int {
+	Visit(len(f.Nodes), first, func(at int) []int {
 		hanging[at]++
 		return users[at]
 	})
@@ -43,28 +43,17 @@ func (f *flow) hanging(i int, users [][]int) map[int]int {
 }
 
 // ahead: is a call or region come to ahead of all that ask for what hangs on it? It is so if nobody asks on ways that don't go on behind it.
-func (f *flow) ahead(i int, hanging map[int]int) bool {
+func (f *Flow) ahead(i int, hanging map[int]int) bool {
 	well := true
-	visit(len(f.Nodes), []int{0}, func(way int) []int {
-		to := f.takers[way]
+	Visit(len(f.Nodes), []int{0}, func(way int) []int {
+		to := f.Takers[way]
 		for _, v := range f.asked(to) {
 			well = well && hanging[v] == 0
 		}
-		if to.node == i {
+		if to.Node == i {
 			return nil
 		}
-		return f.behind(to.node)
+		return f.Behind(to.Node)
 	})
 	return well
-}
-
-// behind: the ways on which it goes on from a node.
-func (f *flow) behind(i int) []int {
-	switch f.Nodes[i].Kind {
-	case "if":
-		return []int{f.yes[i], f.no[i]}
-	case "return":
-		return nil
-	}
-	return []int{i}
 }

@@ -1,110 +1,60 @@
 package graph
 
-import (
-	"kelpforest/api"
-	"kelpforest/val"
-)
-
-// Call of a function.
-type Call struct {
-	Name string
-	Args []int
-}
-
-// Done: how a walk ended.
-type Done struct {
-	How          string
-	Value, Ticks int
-	Out          []int
-	Calls        []Call
-}
-
-// mostWays of a walk, for one without ticks and calls need not come to an end.
-const mostWays = 100000
-
 // Walk a graph.
 func Walk(g Graph, args, answers []int, ticks int) Done {
-	if Check(g) != nil || len(args) != g.Params {
+	f, err := NewFlow(g)
+	if err != nil || len(args) != g.Params {
 		return Done{How: "stuck"}
 	}
-	w := &walker{flow: newFlow(g), args: args, answers: answers, most: ticks, values: map[int]value{}}
+	w := &walker{Flow: f, Record: NewRecord(answers, ticks), args: args, values: map[int]value{}}
 	way := 0
-	for w.ways < mostWays {
-		w.ways++
-		way = w.follow(w.takers[way])
-		if w.How != "" {
-			return w.Done
-		}
+	for w.Step() {
+		way = w.follow(w.Takers[way])
 	}
-	w.How = "stuck"
 	return w.Done
 }
 
-// value of a node, reckoned in the walk's so manieth way.
+// value of a node, reckoned in the walk's so manieth step.
 type value struct {
-	number, ways int
+	number, step int
 }
 
-// walker: a walk on its way. How is empty as long as it goes on.
+// walker: a walk on its way.
 type walker struct {
-	*flow
-	Done
-	args, answers []int
-	most          int
-	ways          int
-	values        map[int]value
+	*Flow
+	*Record
+	args   []int
+	values map[int]value
 }
 
-// stop the walk; the way that it answers is none that is gone.
-func (w *walker) stop(how string) int {
-	w.How = how
-	return 0
-}
-
-// follow a way to where it is taken; it answers the next one.
-func (w *walker) follow(s spot) int {
-	n := w.Nodes[s.node]
+// follow a way to where it is taken; it answers the next one (if the walk stops there: any).
+func (w *walker) follow(s Spot) int {
+	n := w.Nodes[s.Node]
 	asked, ok := w.ask(w.asked(s))
 	if !ok {
-		return w.stop("stuck")
+		w.Stop("stuck")
+		return 0
 	}
 	switch n.Kind {
 	case "region":
-		for i, phi := range w.phis[s.node] {
+		for i, phi := range w.Phis[s.Node] {
 			w.values[phi] = value{number: asked[i]}
 		}
 	case "if":
 		if asked[0] != 0 {
-			return w.yes[s.node]
+			return w.Yes[s.Node]
 		}
-		return w.no[s.node]
+		return w.No[s.Node]
 	case "tick":
-		if w.Ticks >= w.most {
-			return w.stop("over")
-		}
-		w.Ticks++
+		w.Tick()
 	case "print":
-		if len(w.Out) == api.MaxOut {
-			return w.stop("over")
-		}
-		w.Out = append(w.Out, asked[0])
+		w.Print(asked[0])
 	case "call":
-		return w.call(s.node, asked)
+		w.values[s.Node] = value{number: w.Call(n.Name, asked)}
 	case "return":
-		w.Value = asked[0]
-		return w.stop("done")
+		w.Return(asked[0])
 	}
-	return s.node
-}
-
-func (w *walker) call(i int, args []int) int {
-	k := len(w.Calls)
-	if k >= len(w.answers) {
-		return w.stop("over")
-	}
-	w.Calls = append(w.Calls, Call{Name: w.Nodes[i].Name, Args: args})
-	w.values[i] = value{number: w.answers[k]}
-	return i
+	return s.Node
 }
 
 // ask for values; false: one of them is not there.
@@ -120,7 +70,7 @@ func (w *walker) ask(list []int) ([]int, bool) {
 	return numbers, true
 }
 
-// reckon a value. What is reckoned of others is kept till the way is gone, for it may be asked for again, and each of its own again as often.
+// reckon a value. What is reckoned of others is kept till the step is done, for it may be asked for again, and each of its own again as often.
 func (w *walker) reckon(i int) (int, bool) {
 	n := w.Nodes[i]
 	switch n.Kind {
@@ -132,19 +82,14 @@ func (w *walker) reckon(i int) (int, bool) {
 		v, got := w.values[i]
 		return v.number, got
 	}
-	if v := w.values[i]; v.ways == w.ways {
+	if v := w.values[i]; v.step == w.steps {
 		return v.number, true
 	}
 	in, ok := w.ask(n.In)
 	if !ok {
 		return 0, false
 	}
-	var number int
-	if n.Kind == "one" {
-		number, _ = val.One(n.Name, in[0])
-	} else {
-		number, _ = val.Do(n.Name, in[0], in[1])
-	}
-	w.values[i] = value{number, w.ways}
+	number, _ := Reckon(n.Kind, n.Name, in)
+	w.values[i] = value{number, w.steps}
 	return number, true
 }
