@@ -183,6 +183,34 @@ func TestEveryOp(t *testing.T) {
 	}
 }
 
+// P110: what each op reckons, by its sign.
+func TestSigns(t *testing.T) {
+	ones := map[string]string{"neg": "-", "not": "!"}
+	twos := map[string]string{"add": "+", "sub": "-", "mul": "*", "div": "/", "rem": "%", "and": "&", "or": "|", "xor": "^", "shl": "<<", "shr": ">>", "less": "<", "most": "<=", "same": "==", "other": "!="}
+	for _, r := range rows() {
+		want := ones[r.op] + twos[r.op]
+		if got := code.Sign(r.op); got != want {
+			t.Errorf("Sign(%q) = %q, want %q", r.op, got, want)
+		}
+		if got := code.Reckons(want, r.owns("b")); want != "" && got != r.op {
+			t.Errorf("Reckons(%q) = %q, want %q", want, got, r.op)
+		}
+	}
+	for _, name := range []string{"", "+", "-", "Add", "what"} {
+		if got := code.Sign(name); got != "" {
+			t.Errorf("Sign(%q) = %q", name, got)
+		}
+	}
+	for _, sign := range []string{"", "add", "~", "!!", " "} {
+		if one, two := code.Reckons(sign, false), code.Reckons(sign, true); one+two != "" {
+			t.Errorf("Reckons(%q) = %q, %q", sign, one, two)
+		}
+	}
+	if code.Reckons("!", true)+code.Reckons("+", false) != "" {
+		t.Error("a sign of two numbers is none of one")
+	}
+}
+
 // P111: what is no op, whatever it has.
 func TestNoOp(t *testing.T) {
 	for _, name := range []string{"", "what", "Const", "const ", " add", "+", "-", "one", "two", "r1"} {

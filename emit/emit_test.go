@@ -104,7 +104,7 @@ func together(t *testing.T, m emit.Image, l []alloc.Code, k int, args []int, tic
 	if want.How == "stuck" {
 		return want
 	}
-	if o := ran(m, k, args, ticks); fmt.Sprint(o) != fmt.Sprint(want) {
+	if o := ran(t, m, k, args, ticks); fmt.Sprint(o) != fmt.Sprint(want) {
 		t.Fatalf("%s of %v with %d ticks: %+v, want %+v\n%+v\n%s", l[k].Name, args, ticks, o, want, l, text(m))
 	}
 	return want
@@ -333,7 +333,7 @@ func TestEmitEmpty(t *testing.T) {
 	}
 	for i, c := range []alloc.Code{of("f", 0, 0, jumps(0)), of("f", 0, 0, jumps(1), jumps(0)), of("f", 0, 0, branches(0, 0, 1), jumps(0)), of("f", 0, 0, jumps(1), branches(0, 0, 1))} {
 		l := []alloc.Code{c, fine("g", 0)}
-		if o := ran(emitted(t, l...), 0, nil, 9); o.How != "stuck" || o.Ticks != 1 {
+		if o := ran(t, emitted(t, l...), 0, nil, 9); o.How != "stuck" || o.Ticks != 1 {
 			t.Error(i, o)
 		}
 	}
@@ -466,7 +466,7 @@ func TestPrograms(t *testing.T) {
 			for _, args := range c.args {
 				for _, most := range []int{0, 1, 2, 3, 9, 41, 42, 80, 1000, api.MaxTicks} {
 					want, err := run.Run(p, "main", args, most)
-					if o := ran(m, len(l)-1, args, most); err != nil || fmt.Sprint(o) != fmt.Sprint(want) {
+					if o := ran(t, m, len(l)-1, args, most); err != nil || fmt.Sprint(o) != fmt.Sprint(want) {
 						t.Fatalf("of %v with %d ticks: %v, want %v, %v\n%s\n%s", args, most, o, want, err, c.text, text(m))
 					}
 				}

@@ -8,16 +8,17 @@ import (
 	"kelpforest/code"
 	"kelpforest/emit"
 	"kelpforest/graph"
+	"kelpforest/mach"
 	"kelpforest/val"
 )
 
-// machine as chapters 11 and 13 have it, word by word. How is empty as long as it goes on.
+// machine as chapters 11 and 13 have it, word by word, but that its calls are answered from outside, as those of a walk are. How is empty as long as it goes on.
 type machine struct {
 	emit.Image
 	api.Outcome
-	most, deep int
-	left       int                              // words that it may still take
-	call       func(number int, args []int) int // a function
+	most int
+	left int                              // words that it may still take
+	call func(number int, args []int) int // a function
 }
 
 // frame of a call.
@@ -164,25 +165,14 @@ func ranAlone(m emit.Image, number int, args, answers []int, ticks int) graph.Do
 	return graph.Done{How: how, Value: value, Ticks: r.Ticks, Out: r.Out, Calls: calls}
 }
 
-// ran: what a function of an image does, calls going to the others.
-func ran(m emit.Image, number int, args []int, ticks int) api.Outcome {
-	r := &machine{Image: m, most: ticks, left: enoughWords}
-	r.call = func(number int, args []int) int {
-		if r.tick(); r.How != "" {
-			return 0
-		}
-		if r.deep == api.MaxDeep {
-			r.stop("deep")
-			return 0
-		}
-		r.deep++
-		value := r.enter(number, args)
-		r.deep--
-		return value
+// ran: what a function of an image does by mach.Run, calls going to the others.
+func ran(t *testing.T, m emit.Image, number int, args []int, ticks int) api.Outcome {
+	t.Helper()
+	o, err := mach.Run(m, m.Funs[number].Name, args, ticks)
+	if err != nil {
+		t.Fatalf("%v\n%s", err, text(m))
 	}
-	r.Value = r.call(number, args)
-	r.stop("done")
-	return r.Outcome
+	return o
 }
 
 // walker of codes by alloc.Walk alone, each call answered by a walk of the other.

@@ -101,34 +101,8 @@ func (w *writer) number(d, number int) {
 
 // opOf an Ins: but where it reckons, the machine's op has the name of its kind.
 func opOf(x alloc.Low) string {
-	for _, s := range signs {
-		if s.kind == x.Kind && s.sign == x.Name {
-			return s.op
-		}
+	if x.Kind == "one" || x.Kind == "two" {
+		return code.Reckons(x.Name, x.Kind == "two")
 	}
 	return x.Kind
-}
-
-// sign of an op of numbers, and the machine's name for it.
-type sign struct {
-	kind, sign, op string
-}
-
-var signs = [...]sign{
-	{"one", "-", "neg"},
-	{"one", "!", "not"},
-	{"two", "+", "add"},
-	{"two", "-", "sub"},
-	{"two", "*", "mul"},
-	{"two", "/", "div"},
-	{"two", "%", "rem"},
-	{"two", "&", "and"},
-	{"two", "|", "or"},
-	{"two", "^", "xor"},
-	{"two", "<<", "shl"},
-	{"two", ">>", "shr"},
-	{"two", "<", "less"},
-	{"two", "<=", "most"},
-	{"two", "==", "same"},
-	{"two", "!=", "other"},
 }
