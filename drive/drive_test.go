@@ -343,6 +343,9 @@ func TestShow(t *testing.T) {
 		}
 	}
 	for _, s := range texts() {
+		if p, err := drive.Parse(s); err != nil || !reflect.DeepEqual(p, parsed(t, s)) {
+			t.Errorf("%v, %v", p, err)
+		}
 		u, err := drive.Show(s)
 		if err != nil || u != show.Program(parsed(t, s)) {
 			t.Errorf("%q, %v", u, err)
@@ -365,6 +368,9 @@ func TestShow(t *testing.T) {
 	} {
 		if u, err := drive.Show(c.text); u != "" || !reflect.DeepEqual(err, c.want) {
 			t.Errorf("%q, %v; want %v", u, err, c.want)
+		}
+		if p, err := drive.Parse(c.text); len(p) != 0 || !reflect.DeepEqual(err, c.want) {
+			t.Errorf("%v, %v; want %v", p, err, c.want)
 		}
 	}
 }
